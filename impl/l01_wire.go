@@ -19,6 +19,8 @@ const (
 	wantWord
 	wantList
 	wantFrame
+	wantFlag
+	wantNode
 )
 
 const (
@@ -43,7 +45,7 @@ type missing struct {
 }
 
 func (m missing) Error() string {
-	names := [...]string{wantNum: "number", wantWord: "word", wantList: "list", wantFrame: "frame"}
+	names := [...]string{wantNum: "number", wantWord: "word", wantList: "list", wantFrame: "frame", wantFlag: "flag", wantNode: "node"}
 	return "no " + names[m.want] + " at place " + strconv.Itoa(m.place)
 }
 
@@ -51,6 +53,9 @@ func isMissing(err error) bool {
 	var m missing
 	return errors.As(err, &m)
 }
+
+// A seal is a check sum, and where the frame that it closes ends.
+type seal [2]int
 
 // A wire is bytes that numbers and words are written behind and read from.
 type wire []byte
@@ -151,7 +156,8 @@ func (w wire) frame() (wire, error) {
 	if err != nil {
 		return nil, err
 	}
-	if check != CheckOf(body) || end != len(w) {
+	told, found := seal{check, end}, seal{CheckOf(body), len(w)}
+	if told != found {
 		return nil, missing{wantFrame, from + count}
 	}
 	return body, nil

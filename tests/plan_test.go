@@ -158,8 +158,9 @@ func sameNodes(a []impl.Node, b []impl.Node) bool {
 	})
 }
 
-func TestNodeOk(t *testing.T) {
-	for _, n := range []impl.Node{
+// fitNodes are nodes, of each kind and at both ends of each field.
+func fitNodes() []impl.Node {
+	return []impl.Node{
 		scan("a"), scan("t1"), scan("abcdefghijkl"),
 		filter(0, impl.OpSame, 0), filter(63, impl.OpSame, 1), filter(1, impl.OpLess, -impl.MaxNum), filter(1, impl.OpMore, impl.MaxNum), filter(1, impl.OpMore, 40),
 		filter(0, impl.OpNone, 0), filter(63, impl.OpNone, 0),
@@ -168,15 +169,12 @@ func TestNodeOk(t *testing.T) {
 		joinOn(0, 0), joinOn(63, 0), joinOn(0, 63), both(), sortBy(0), sortBy(63),
 		limit(0), limit(40), limit(impl.MaxNum), asSlot(limit(0)), asSlot(limit(39)), once(),
 		{Kind: impl.NodeScan, Name: "t1", Cols: []int{}}, {Kind: impl.NodeOnce, Cols: []int{}},
-	} {
-		if !impl.NodeOk(n) {
-			t.Errorf("%+v is a node", n)
-		}
 	}
 }
 
-func TestNoNode(t *testing.T) {
-	for _, n := range []impl.Node{
+// unfitNodes are none, most of them for one field that is just beyond its end.
+func unfitNodes() []impl.Node {
+	return []impl.Node{
 		scan(""), scan("1a"), scan("A"), scan("a b"), scan("abcdefghijklm"), scan(strings.Repeat("a", 5000)),
 		filter(-1, impl.OpSame, 0), filter(64, impl.OpSame, 0), filter(math.MaxInt, impl.OpSame, 0), filter(math.MinInt, impl.OpSame, 0),
 		filter(0, -1, 0), filter(0, 4, 0), filter(0, math.MaxInt, 0),
@@ -189,7 +187,19 @@ func TestNoNode(t *testing.T) {
 		sortBy(-1), sortBy(64), sortBy(math.MinInt),
 		limit(-1), limit(impl.MaxNum + 1), limit(math.MinInt), asSlot(limit(-1)), asSlot(limit(40)), asSlot(limit(impl.MaxNum)),
 		{Kind: -1}, {Kind: 8}, {Kind: math.MaxInt}, {Kind: math.MinInt}, {Kind: 8, Name: "t1"}, {},
-	} {
+	}
+}
+
+func TestNodeOk(t *testing.T) {
+	for _, n := range fitNodes() {
+		if !impl.NodeOk(n) {
+			t.Errorf("%+v is a node", n)
+		}
+	}
+}
+
+func TestNoNode(t *testing.T) {
+	for _, n := range unfitNodes() {
 		if impl.NodeOk(n) {
 			t.Errorf("%+v is no node", n)
 		}
