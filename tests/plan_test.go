@@ -74,26 +74,27 @@ func ordinaryPlans() [][]impl.Node {
 
 func noPlans() map[string][]impl.Node {
 	return map[string][]impl.Node{
-		"no nodes":               nil,
-		"no nodes, not nil":      {},
-		"one node too early":     {once()},
-		"join with one child":    {joinOn(0, 0), scan("t1")},
-		"join without children":  {joinOn(0, 0)},
-		"ends in a lower part":   {both(), scan("t1"), once()},
-		"a node behind":          {scan("t1"), scan("t2")},
-		"a node behind a chain":  {once(), scan("t1"), once()},
-		"a plan behind":          {scan("t1"), once(), scan("t2")},
-		"41 nodes":               bushyOf(impl.MaxNodes + 1),
-		"11 deep":                chain(impl.MaxDepth + 1),
-		"41 deep":                chain(impl.MaxNodes + 1),
-		"11 deep on the left":    append(append([]impl.Node{both()}, chain(impl.MaxDepth)...), scan("t1")),
-		"11 deep on the right":   append([]impl.Node{both(), scan("t1")}, chain(impl.MaxDepth)...),
-		"a bad leaf":             {once(), scan("T1")},
-		"a bad first node":       {filter(64, impl.OpSame, 0), scan("t1")},
-		"a bad node in between":  {once(), keep(), scan("t1")},
-		"a Kind that is none":    {{Kind: 8}, scan("t1")},
-		"a field that is not so": {{Kind: impl.NodeOnce, Num: 1}, scan("t1")},
-		"very many nodes":        chain(2000),
+		"no nodes":                nil,
+		"no nodes, not nil":       {},
+		"one node too early":      {once()},
+		"join with one child":     {joinOn(0, 0), scan("t1")},
+		"join without children":   {joinOn(0, 0)},
+		"ends in a lower part":    {both(), scan("t1"), once()},
+		"a node behind":           {scan("t1"), scan("t2")},
+		"a node behind a chain":   {once(), scan("t1"), once()},
+		"a plan behind":           {scan("t1"), once(), scan("t2")},
+		"41 nodes":                bushyOf(impl.MaxNodes + 1),
+		"40 nodes and one behind": append(bushyOf(impl.MaxNodes), scan("t1")),
+		"11 deep":                 chain(impl.MaxDepth + 1),
+		"41 deep":                 chain(impl.MaxNodes + 1),
+		"11 deep on the left":     append(append([]impl.Node{both()}, chain(impl.MaxDepth)...), scan("t1")),
+		"11 deep on the right":    append([]impl.Node{both(), scan("t1")}, chain(impl.MaxDepth)...),
+		"a bad leaf":              {once(), scan("T1")},
+		"a bad first node":        {filter(64, impl.OpSame, 0), scan("t1")},
+		"a bad node in between":   {once(), keep(), scan("t1")},
+		"a Kind that is none":     {{Kind: 8}, scan("t1")},
+		"a field that is not so":  {{Kind: impl.NodeOnce, Num: 1}, scan("t1")},
+		"very many nodes":         chain(2000),
 	}
 }
 
@@ -118,17 +119,21 @@ func wantEnd(p []impl.Node, k int) int {
 	return 0
 }
 
-// wantDepth counts for each place how many nodes stand above it: those that begin ahead of it and end behind it.
+// wantAbove counts how many nodes stand above a place: those that begin ahead of it and end behind it.
+func wantAbove(p []impl.Node, k int) int {
+	above := 0
+	for i := range k {
+		if wantEnd(p, i) > k {
+			above++
+		}
+	}
+	return above
+}
+
 func wantDepth(p []impl.Node) int {
 	most := 0
 	for k := range p {
-		above := 0
-		for i := range k {
-			if wantEnd(p, i) > k {
-				above++
-			}
-		}
-		most = max(most, above+1)
+		most = max(most, wantAbove(p, k)+1)
 	}
 	return most
 }
